@@ -24,18 +24,18 @@ func (r *Reader) Num() int {
 			return r.whole(n, i)
 		}
 	}
-	r.fail(api.ErrText)
+	r.Fail(api.ErrText)
 	return 0
 }
 
 // whole takes the number n off, whose last byte stands at the place last.
 func (r *Reader) whole(n, last int) int {
 	if last > 0 && r.rest[last] == 0 { // fewer bytes would do: each number is written in one way
-		r.fail(api.ErrText)
+		r.Fail(api.ErrText)
 		return 0
 	}
 	if n > api.MaxNum {
-		r.fail(api.ErrBound)
+		r.Fail(api.ErrBound)
 		return 0
 	}
 	r.rest = r.rest[last+1:]
@@ -46,11 +46,11 @@ func (r *Reader) whole(n, last int) int {
 func (r *Reader) Text() string {
 	n := r.Num()
 	if n > api.MaxText {
-		r.fail(api.ErrBound)
+		r.Fail(api.ErrBound)
 		return ""
 	}
 	if n > len(r.rest) {
-		r.fail(api.ErrText)
+		r.Fail(api.ErrText)
 		return ""
 	}
 	s := r.rest[:n]
@@ -64,8 +64,17 @@ func (r *Reader) Rest() string { return r.rest }
 // Err: the first error.
 func (r *Reader) Err() error { return r.err }
 
-func (r *Reader) fail(err error) {
-	if r.err == nil {
+// Fail ends the reading with an error of the caller's, unless there was one ahead of it.
+func (r *Reader) Fail(err error) {
+	if r.err == nil && err != nil {
 		r.rest, r.err = "", err
 	}
+}
+
+// End: the first error; bytes that are left are one, too.
+func (r *Reader) End() error {
+	if r.rest != "" {
+		r.Fail(api.ErrText)
+	}
+	return r.err
 }

@@ -87,3 +87,40 @@ func TestReaderErrorStays(t *testing.T) {
 		t.Error(r.Err())
 	}
 }
+
+// A caller's own error stays like one of the reader's, unless there was one ahead of it.
+func TestFail(t *testing.T) {
+	r := num.NewReader("\x01\x02")
+	r.Num()
+	r.Fail(nil)
+	if r.Rest() != "\x02" || r.Err() != nil {
+		t.Errorf("%q %v", r.Rest(), r.Err())
+	}
+	r.Fail(api.ErrKind)
+	r.Fail(api.ErrShape)
+	if r.Num() != 0 || r.Rest() != "" || r.Err() != api.ErrKind || r.End() != api.ErrKind {
+		t.Errorf("%q %v", r.Rest(), r.Err())
+	}
+	r = num.NewReader("\x80\x00")
+	r.Num()
+	r.Fail(api.ErrKind)
+	if r.Err() != api.ErrText {
+		t.Error(r.Err())
+	}
+}
+
+// At the end, nothing may be left.
+func TestEnd(t *testing.T) {
+	for s, want := range map[string]error{
+		"\x01":                     nil,
+		"\x01x":                    api.ErrText,
+		"":                         api.ErrText,
+		"\x81\x80\x80\x80\x80\x20": api.ErrBound,
+	} {
+		r := num.NewReader(s)
+		r.Num()
+		if err := r.End(); err != want || r.Err() != want {
+			t.Errorf("%q: %v %v, want %v", s, err, r.Err(), want)
+		}
+	}
+}
