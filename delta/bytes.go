@@ -26,7 +26,7 @@ func write(ops []api.Op) (string, error) {
 }
 
 func writeOp(w *num.Writer, op api.Op) {
-	if op.Kind == kindData {
+	if op.Kind == KindData {
 		w.Num(numData)
 		w.Text(op.Data)
 		return
@@ -54,9 +54,9 @@ func readOp(r *num.Reader) api.Op {
 	switch r.Num() {
 	case numCopy:
 		at, n := r.Num(), r.Num()
-		return api.Op{Kind: kindCopy, At: at, N: n}
+		return api.Op{Kind: KindCopy, At: at, N: n}
 	case numData:
-		return api.Op{Kind: kindData, Data: r.Text()}
+		return api.Op{Kind: KindData, Data: r.Text()}
 	}
 	r.Fail(api.ErrText)
 	return api.Op{}

@@ -23,6 +23,13 @@ var (
 	_ func([]api.Op) int                               = delta.Cost
 )
 
+// P51: the kinds have the names that an op has.
+func TestKinds(t *testing.T) {
+	if delta.KindCopy != "copy" || delta.KindData != "data" {
+		t.Error(delta.KindCopy, delta.KindData)
+	}
+}
+
 func cp(at, n int) api.Op { return api.Op{Kind: "copy", At: at, N: n} }
 
 func data(s string) api.Op { return api.Op{Kind: "data", Data: s} }

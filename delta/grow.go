@@ -32,7 +32,7 @@ func made(l []api.Block, size int, s string) []api.Op {
 func growing(ops *[]api.Op) (fresh func(string), copied func(int)) {
 	fresh = func(s string) {
 		if s != "" {
-			*ops = append(*ops, api.Op{Kind: kindData, Data: s})
+			*ops = append(*ops, api.Op{Kind: KindData, Data: s})
 		}
 	}
 	copied = func(k int) {
@@ -40,13 +40,13 @@ func growing(ops *[]api.Op) (fresh func(string), copied func(int)) {
 			(*ops)[n-1].N++
 			return
 		}
-		*ops = append(*ops, api.Op{Kind: kindCopy, At: k, N: 1})
+		*ops = append(*ops, api.Op{Kind: KindCopy, At: k, N: 1})
 	}
 	return fresh, copied
 }
 
 // copiesUpTo: block k is the one behind the last that op copies.
-func copiesUpTo(op api.Op, k int) bool { return op.Kind == kindCopy && op.At+op.N == k }
+func copiesUpTo(op api.Op, k int) bool { return op.Kind == KindCopy && op.At+op.N == k }
 
 // finding answers a call that finds the block with which s goes on at a place
 // (-1: none). Both sums of the bytes anew at each place would be slow: where

@@ -4,8 +4,8 @@ import "packhorse/api"
 
 // The kinds of an op.
 const (
-	kindCopy = "copy"
-	kindData = "data"
+	KindCopy = "copy"
+	KindData = "data"
 )
 
 // firstWrong is the place of the first op that is none, and why. A caller
@@ -21,9 +21,9 @@ func firstWrong(ops []api.Op) (int, error) {
 
 func wrong(op api.Op) error {
 	switch op.Kind {
-	case kindCopy:
+	case KindCopy:
 		return wrongCopy(op)
-	case kindData:
+	case KindData:
 		return wrongData(op)
 	}
 	return api.ErrKind
