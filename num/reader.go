@@ -42,6 +42,17 @@ func (r *Reader) whole(n, last int) int {
 	return n
 }
 
+// Byte reads a byte as it is (0 with an error).
+func (r *Reader) Byte() byte {
+	if r.rest == "" {
+		r.Fail(api.ErrText)
+		return 0
+	}
+	b := r.rest[0]
+	r.rest = r.rest[1:]
+	return b
+}
+
 // Text reads a text (empty with an error).
 func (r *Reader) Text() string {
 	n := r.Num()

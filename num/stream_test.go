@@ -33,6 +33,28 @@ func TestStream(t *testing.T) {
 	}
 }
 
+// A byte is written as it is, whatever it is, and read so.
+func TestByte(t *testing.T) {
+	for b := range 256 {
+		w := num.NewWriter()
+		w.Num(300)
+		w.Byte(byte(b))
+		w.Text("x")
+		s, err := w.Done()
+		if want := "\xac\x02" + string([]byte{byte(b)}) + "\x01x"; s != want || err != nil {
+			t.Errorf("%d: %q %v, want %q", b, s, err, want)
+		}
+		r := num.NewReader(s)
+		if n, back, a := r.Num(), r.Byte(), r.Text(); n != 300 || back != byte(b) || a != "x" || r.End() != nil {
+			t.Errorf("%d: %d %d %q %v", b, n, back, a, r.Err())
+		}
+	}
+	r := num.NewReader("a")
+	if r.Byte() != 'a' || r.Err() != nil || r.Byte() != 0 || r.Err() != api.ErrText {
+		t.Error(r.Err())
+	}
+}
+
 // P4: what a writer answered does not change with what it writes later.
 func TestDoneIsNew(t *testing.T) {
 	w := num.NewWriter()
@@ -58,6 +80,7 @@ func TestWriterErrorStays(t *testing.T) {
 		w.Num(1)
 		wrong(w)
 		w.Num(2)
+		w.Byte(3)
 		w.Text("abc")
 		if s, err := w.Done(); s != "" || err != api.ErrBound {
 			t.Errorf("%q %v", s, err)
@@ -78,7 +101,7 @@ func TestReaderErrorStays(t *testing.T) {
 			r.Text()
 			want = api.ErrText
 		}
-		if r.Err() != want || r.Num() != 0 || r.Text() != "" || r.Rest() != "" || r.Err() != want {
+		if r.Err() != want || r.Num() != 0 || r.Byte() != 0 || r.Text() != "" || r.Rest() != "" || r.Err() != want {
 			t.Errorf("%q: %q %v, want %v", s, r.Rest(), r.Err(), want)
 		}
 	}

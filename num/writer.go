@@ -32,6 +32,13 @@ func (w *Writer) Num(n int) {
 	w.out = append(w.out, byte(n))
 }
 
+// Byte writes a byte as it is.
+func (w *Writer) Byte(b byte) {
+	if w.err == nil {
+		w.out = append(w.out, b)
+	}
+}
+
 // Text writes how many bytes a text has, and they.
 func (w *Writer) Text(s string) {
 	if len(s) > api.MaxText {
