@@ -5,6 +5,7 @@ import (
 	"strings"
 
 	"packhorse/api"
+	"packhorse/decimal"
 	"packhorse/files"
 )
 
@@ -19,7 +20,7 @@ func lineOf(token string, epoch int) string {
 func readLine(line, above string) (string, int, error) {
 	body, ended := strings.CutSuffix(line, "\n")
 	token, digits, _ := strings.Cut(body, " ") // no blank: no digits, which are no number
-	epoch, is := number(digits)
+	epoch, is := decimal.Read(digits, maxDigits)
 	switch {
 	case !ended || !is:
 		return "", 0, api.ErrText
@@ -31,16 +32,4 @@ func readLine(line, above string) (string, int, error) {
 		return "", 0, api.ErrOrder
 	}
 	return token, epoch, nil
-}
-
-// number of just digits, as lineOf would write them.
-func number(digits string) (int, bool) {
-	if len(digits) > maxDigits {
-		return 0, false
-	}
-	n, err := strconv.Atoi(digits)
-	if err != nil || n < 0 || strconv.Itoa(n) != digits {
-		return 0, false
-	}
-	return n, true
 }
